@@ -4,6 +4,7 @@ import (
 	"strings"
 
 	"virgation/api"
+	"virgation/scan"
 )
 
 const arrow = " > "
@@ -21,7 +22,7 @@ func Get(text string) (api.Sort, api.Errno) {
 	if len(text) > api.MaxText {
 		return api.Sort{}, api.ErrLimit
 	}
-	s, ok := read(text)
+	s, ok := scan.All(text, read)
 	if !ok {
 		return api.Sort{}, api.ErrForm
 	}
@@ -45,51 +46,18 @@ func spell(s api.Sort) string {
 	return out.String()
 }
 
-// read reads all of text as one sort, of any size; it reports whether text is the string of one.
-func read(text string) (s api.Sort, ok bool) {
-	defer func() {
-		if recover() != nil {
-			s, ok = api.Sort{}, false
-		}
-	}()
-	r := reader{rest: text}
-	s = r.sort()
-	if r.rest != "" {
-		panic(api.ErrForm)
-	}
-	return s, true
-}
-
-// A reader has the rest of a text; its methods panic if that does not begin with what they need.
-type reader struct {
-	rest string
-}
-
-// skip passes over a word if the rest begins with it.
-func (r *reader) skip(word string) bool {
-	rest, found := strings.CutPrefix(r.rest, word)
-	r.rest = rest
-	return found
-}
-
-func (r *reader) need(word string) {
-	if !r.skip(word) {
-		panic(api.ErrForm)
-	}
-}
-
-// sort reads a sort of any size: arguments, each with an arrow behind it, up to the o that has none.
-func (r *reader) sort() api.Sort {
+// read reads a sort of any size: arguments, each with an arrow behind it, up to the o that has none.
+func read(r *scan.Reader) api.Sort {
 	var s api.Sort
 	for {
-		if r.skip("(") {
-			a := r.bracketed()
-			r.need(arrow)
+		if r.Skip("(") {
+			a := bracketed(r)
+			r.Need(arrow)
 			s.Args = append(s.Args, a)
 			continue
 		}
-		r.need("o")
-		if !r.skip(arrow) {
+		r.Need("o")
+		if !r.Skip(arrow) {
 			return s
 		}
 		s.Args = append(s.Args, api.Sort{})
@@ -97,11 +65,11 @@ func (r *reader) sort() api.Sort {
 }
 
 // bracketed reads an argument behind its opening bracket; o has no brackets.
-func (r *reader) bracketed() api.Sort {
-	s := r.sort()
+func bracketed(r *scan.Reader) api.Sort {
+	s := read(r)
 	if len(s.Args) == 0 {
-		panic(api.ErrForm)
+		scan.Fail()
 	}
-	r.need(")")
+	r.Need(")")
 	return s
 }

@@ -2,6 +2,7 @@ package term
 
 import (
 	"virgation/api"
+	"virgation/scan"
 	"virgation/sorts"
 )
 
@@ -43,29 +44,12 @@ func symbols(l []api.Symbol) bool {
 	}
 	met := map[string]bool{}
 	for _, s := range l {
-		if !named(s.Name) || met[s.Name] || s.Rank < 0 || s.Rank > api.MaxRank {
+		if !scan.IsName(s.Name) || met[s.Name] || s.Rank < 0 || s.Rank > api.MaxRank {
 			return false
 		}
 		met[s.Name] = true
 	}
 	return true
-}
-
-// named reports whether text is a name.
-func named(text string) bool {
-	if text == "" || len(text) > api.MaxName || !letter(text[0]) {
-		return false
-	}
-	for _, c := range []byte(text) {
-		if !letter(c) && (c < '0' || c > '9') && c != '_' {
-			return false
-		}
-	}
-	return true
-}
-
-func letter(c byte) bool {
-	return 'a' <= c && c <= 'z'
 }
 
 // valid reports whether l are valid sorts, at most as many as are told.
