@@ -1,4 +1,4 @@
-// Package scan reads texts from left to right: what the readers of the layers have in common.
+// Package scan reads texts from left to right: what the readers of the layers have in common, and what names and symbols are.
 package scan
 
 import (
@@ -102,6 +102,21 @@ func IsName(text string) bool {
 		if !inName(c) {
 			return false
 		}
+	}
+	return true
+}
+
+// AreSymbols reports whether l are symbols: their number, their ranks and their names, which are different.
+func AreSymbols(l []api.Symbol) bool {
+	if len(l) > api.MaxSyms {
+		return false
+	}
+	met := map[string]bool{}
+	for _, s := range l {
+		if !IsName(s.Name) || met[s.Name] || s.Rank < 0 || s.Rank > api.MaxRank {
+			return false
+		}
+		met[s.Name] = true
 	}
 	return true
 }

@@ -1,9 +1,12 @@
 package scan_test
 
 import (
+	"math"
+	"strconv"
 	"strings"
 	"testing"
 
+	"virgation/api"
 	"virgation/scan"
 )
 
@@ -17,6 +20,27 @@ func TestIsName(t *testing.T) {
 		"a/", "a:", "a\u00e4", "\u0430", "a\xff", strings.Repeat("z", 25), strings.Repeat("z", 1<<20)} {
 		if scan.IsName(x) {
 			t.Errorf("%.30q", x)
+		}
+	}
+}
+
+func TestAreSymbols(t *testing.T) {
+	var most []api.Symbol
+	for i := range 24 {
+		most = append(most, api.Symbol{Name: "x" + strconv.Itoa(i), Rank: i % 5})
+	}
+	for _, l := range [][]api.Symbol{nil, {}, {{Name: "a"}}, {{Name: "a", Rank: 4}, {Name: "b", Rank: 4}}, {{Name: "a"}, {Name: "aa"}, {Name: "a_"}}, most, most[:23]} {
+		if !scan.AreSymbols(l) {
+			t.Error(l)
+		}
+	}
+	for _, l := range [][]api.Symbol{
+		{{}}, {{Name: "_"}}, {{Name: "a"}, {Name: "A"}}, {{Name: "a"}, {Name: "a"}}, {{Name: "a"}, {Name: "b"}, {Name: "a", Rank: 1}},
+		append(most[:24:24], api.Symbol{Name: "y"}), append(most[:23:23], most[0]), make([]api.Symbol, 1<<16),
+		{{Name: "a", Rank: -1}}, {{Name: "a", Rank: 5}}, {{Name: "a"}, {Name: "b", Rank: math.MaxInt}}, {{Name: "a", Rank: math.MinInt}, {Name: "b"}}, {{Name: "a", Rank: 1 << 32}},
+	} {
+		if scan.AreSymbols(l) {
+			t.Error(l[:min(len(l), 3)], len(l))
 		}
 	}
 }

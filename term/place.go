@@ -15,7 +15,7 @@ type Place struct {
 
 // Check returns ErrArg if p is not a valid place.
 func Check(p Place) api.Errno {
-	if !symbols(p.Syms) || !valid(p.Funs, api.MaxFuns) || !valid(p.Params, api.MaxArgs) {
+	if !scan.AreSymbols(p.Syms) || !valid(p.Funs, api.MaxFuns) || !valid(p.Params, api.MaxArgs) {
 		return api.ErrArg
 	}
 	return api.OK
@@ -35,21 +35,6 @@ func Sort(p Place, t api.Term) (api.Sort, api.Errno) {
 	}
 	s, _ := rest(p, t)
 	return sorts.Behind(s, 0) // a copy: s shares memory with the place
-}
-
-// symbols reports whether l are symbols.
-func symbols(l []api.Symbol) bool {
-	if len(l) > api.MaxSyms {
-		return false
-	}
-	met := map[string]bool{}
-	for _, s := range l {
-		if !scan.IsName(s.Name) || met[s.Name] || s.Rank < 0 || s.Rank > api.MaxRank {
-			return false
-		}
-		met[s.Name] = true
-	}
-	return true
 }
 
 // valid reports whether l are valid sorts, at most as many as are told.
