@@ -70,6 +70,20 @@ func TestReader(t *testing.T) {
 	}
 }
 
+func TestName(t *testing.T) {
+	read := func(r *scan.Reader) string { return r.Name() }
+	for _, text := range []string{"a", "a1", "b_2", strings.Repeat("a", 24)} {
+		if x, ok := scan.All(text, read); x != text || !ok {
+			t.Error(text, x, ok)
+		}
+	}
+	for _, text := range []string{"", "1", "_", "_a", "1a", "A", "a ", strings.Repeat("a", 25)} {
+		if x, ok := scan.All(text, read); x != "" || ok {
+			t.Error(text, x, ok)
+		}
+	}
+}
+
 // number reads a text that is a number of at most 1000.
 func number(text string) (int, bool) {
 	return scan.All(text, func(r *scan.Reader) int { return r.Number(1000) })
